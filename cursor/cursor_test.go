@@ -53,50 +53,39 @@ func TestNewIsAtTheBeginning(t *testing.T) {
 	}
 }
 
+// taken is Take with what it tells as a text, to be held against what Text tells.
+func taken(c *cursor.Cursor, n int) (string, api.Errno) {
+	x, e := c.Take(n)
+	return string(x), e
+}
+
 func TestTakeTellsTheNextBytes(t *testing.T) {
-	const all = 12
-	for p := 0; p <= all; p++ {
-		for n := -3; n <= all+3; n++ {
-			c := at(t, all, p)
-			got, e := c.Take(n)
-			want := fault(n, all-p)
-			if e != want {
-				t.Fatalf("Take(%d) at %d: error %d; want %d", n, p, e, want)
-			}
-			if e != api.OK {
-				if len(got) != 0 {
-					t.Errorf("Take(%d) at %d: %v beside an error", n, p, got)
-				}
-				stands(t, c, p, all)
-				continue
-			}
-			if !bytes.Equal(got, row(all)[p:p+n]) {
-				t.Errorf("Take(%d) at %d: %v", n, p, got)
-			}
-			stands(t, c, p+n, all)
-		}
-	}
+	tellsTheNextBytes(t, taken)
 }
 
 func TestTextTellsTheNextBytes(t *testing.T) {
+	tellsTheNextBytes(t, (*cursor.Cursor).Text)
+}
+
+func tellsTheNextBytes(t *testing.T, read func(*cursor.Cursor, int) (string, api.Errno)) {
+	t.Helper()
 	const all = 12
 	for p := 0; p <= all; p++ {
 		for n := -3; n <= all+3; n++ {
 			c := at(t, all, p)
-			got, e := c.Text(n)
-			want := fault(n, all-p)
-			if e != want {
-				t.Fatalf("Text(%d) at %d: error %d; want %d", n, p, e, want)
+			got, e := read(c, n)
+			if want := fault(n, all-p); e != want {
+				t.Fatalf("%d at %d: error %d; want %d", n, p, e, want)
 			}
 			if e != api.OK {
 				if got != "" {
-					t.Errorf("Text(%d) at %d: %q beside an error", n, p, got)
+					t.Errorf("%d at %d: %q beside an error", n, p, got)
 				}
 				stands(t, c, p, all)
 				continue
 			}
 			if got != string(row(all)[p:p+n]) {
-				t.Errorf("Text(%d) at %d: %q", n, p, got)
+				t.Errorf("%d at %d: %q", n, p, got)
 			}
 			stands(t, c, p+n, all)
 		}
