@@ -12,7 +12,7 @@ import (
 
 // order tells the layers as the document's map does, the first of all ahead; api, on which all lean, stands below them, as does what they share beside it.
 func order() []string {
-	return strings.Fields("api steps cursor digits bitmap text crc link token tree canon simple kinds model codes tlv atica element iso fields residue mapping pack disk journal state keeper timers bridge script")
+	return strings.Fields("api steps fresh cursor digits bitmap text crc link token tree canon simple kinds model codes tlv atica element iso fields residue mapping pack disk journal state keeper timers bridge script")
 }
 
 // library tells what the language of the program has of Go's library.
